@@ -1,63 +1,28 @@
 package ctx
 
 import (
-	"math"
 	"math/big"
 	"math/rand"
 	"slices"
 	"testing"
 
+	"epitaph/aid"
 	"epitaph/api"
 )
 
 const (
-	most  = api.MaxCount
-	above = api.MaxCount + 1
-	huge  = math.MaxUint64
-	last  = api.MaxDev
+	most  = aid.Most
+	above = aid.Above
+	huge  = aid.Huge
+	last  = aid.Last
 )
 
-// of is a dot, in short.
-func of(dev uint16, n uint64) api.Dot {
-	return api.Dot{Dev: dev, N: n}
-}
-
-// dots are some dots, of each the device and the number one behind another.
-func dots(parts ...uint64) []api.Dot {
-	list := []api.Dot{}
-	for i := 0; i+1 < len(parts); i += 2 {
-		list = append(list, of(uint16(parts[i]), parts[i+1]))
-	}
-	return list
-}
-
-// row is a list of runs, its ends one behind another.
-func row(ends ...uint64) []api.Run {
-	list := []api.Run{}
-	for i := 0; i+1 < len(ends); i += 2 {
-		list = append(list, api.Run{Lo: ends[i], Hi: ends[i+1]})
-	}
-	return list
-}
-
-// part is a part of a context, the ends of its runs one behind another.
-func part(dev uint16, ends ...uint64) api.Part {
-	return api.Part{Dev: dev, Runs: row(ends...)}
-}
-
-// copied shares nothing with a context, and has its rooms as well.
-func copied(c api.Ctx) api.Ctx {
-	other := slices.Clone(c)
-	for i, p := range other {
-		other[i].Runs = slices.Clone(p.Runs)
-	}
-	return other
-}
-
-// alike tells whether two contexts are the same part by part and run by run.
-func alike(a, b api.Ctx) bool {
-	return slices.EqualFunc(a, b, func(x, y api.Part) bool { return x.Dev == y.Dev && slices.Equal(x.Runs, y.Runs) })
-}
+// What stands in the tests in short.
+var (
+	of, dots, row, part = aid.Dot, aid.Dots, aid.Runs, aid.Part
+	copied, alike       = aid.Copied, aid.Alike
+	mayBe, never, told  = aid.MayBe, aid.Never, aid.Has
+)
 
 // orders are a list's things in each order.
 func orders[T any](l []T) [][]T {
@@ -79,21 +44,6 @@ func devs() []uint16 {
 	return []uint16{0, 1, 2, 3, 255, 256, 32767, 32768, 65534, 65535}
 }
 
-// mayBe is told by the words of chapter 7, part by part.
-func mayBe(d api.Dot) bool {
-	switch {
-	case d.Dev == 0, d.N < 1, d.N > 281474976710655:
-		return false
-	}
-	return true
-}
-
-// never are dots that may not be, each for one cause or for both.
-func never() []api.Dot {
-	return dots(0, 0, 0, 1, 0, 2, 0, most, 0, above, 0, huge, 1, 0, 1, above, 1, above+1, 1, huge, 2, 0, 2, above, 2, huge,
-		last, 0, last, above, last, huge-1, last, huge)
-}
-
 // silent are runs that tell nothing, each for one cause or for more than one.
 func silent() []api.Run {
 	return row(0, 0, 0, 5, 0, most, 0, above, 0, huge, 5, 4, 5, 0, 2, 1, most, 1, most, most-1, above, most,
@@ -108,18 +58,6 @@ func mute() api.Ctx {
 		list = append(list, part(1, r.Lo, r.Hi), part(last, r.Lo, r.Hi))
 	}
 	return list
-}
-
-// told tells by the chapter's words, run by run, whether a context has a dot.
-func told(c api.Ctx, d api.Dot) bool {
-	for _, p := range c {
-		for _, r := range p.Runs {
-			if p.Dev == d.Dev && mayBe(d) && r.Lo != 0 && r.Lo <= d.N && d.N <= r.Hi && r.Hi <= 281474976710655 {
-				return true
-			}
-		}
-	}
-	return false
 }
 
 // marks are the numbers, rising, at which what contexts have may begin or end, and one beyond all.

@@ -8,19 +8,13 @@ import (
 	"strings"
 	"testing"
 
+	"epitaph/aid"
 	"epitaph/api"
 )
 
 const maxWord = math.MaxUint64
 
-// numBytes are a number's bytes as chapter 3 tells them, by dividing.
-func numBytes(v uint64) []byte {
-	var others []byte
-	for ; v > 0; v /= 256 {
-		others = append([]byte{byte(v % 256)}, others...)
-	}
-	return append([]byte{byte(len(others))}, others...)
-}
+var numBytes = aid.NumBytes
 
 func textBytes(s string) []byte {
 	return append(numBytes(uint64(len(s))), s...)

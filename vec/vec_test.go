@@ -1,26 +1,24 @@
 package vec
 
 import (
-	"math"
 	"math/big"
 	"math/rand"
 	"slices"
 	"testing"
 
+	"epitaph/aid"
 	"epitaph/api"
 )
 
 const (
-	most  = api.MaxCount
-	above = api.MaxCount + 1
-	huge  = math.MaxUint64
-	last  = api.MaxDev
+	most  = aid.Most
+	above = aid.Above
+	huge  = aid.Huge
+	last  = aid.Last
 )
 
-// of is a dot, in short.
-func of(dev uint16, n uint64) api.Dot {
-	return api.Dot{Dev: dev, N: n}
-}
+// What stands in the tests in short.
+var of, mayBe, never = aid.Dot, aid.MayBe, aid.Never
 
 // row is a vector, of each dot the device and the number one behind another.
 func row(parts ...uint64) api.Vec {
@@ -44,21 +42,6 @@ func orders(v api.Vec) []api.Vec {
 		}
 	}
 	return all
-}
-
-// never are dots that may not be, each for one cause or for both.
-func never() api.Vec {
-	return row(0, 0, 0, 1, 0, 2, 0, most, 0, above, 0, huge, 1, 0, 1, above, 1, above+1, 1, huge, 2, 0, 2, above, 2, huge,
-		last, 0, last, above, last, huge-1, last, huge)
-}
-
-// mayBe is told by the words of chapter 7, part by part.
-func mayBe(d api.Dot) bool {
-	switch {
-	case d.Dev == 0, d.N < 1, d.N > 281474976710655:
-		return false
-	}
-	return true
 }
 
 // devs are all devices that the tests speak of, rising.
