@@ -2,6 +2,7 @@ package aid
 
 import (
 	"bytes"
+	"math/rand"
 	"slices"
 	"testing"
 
@@ -150,6 +151,127 @@ func TestReaderErrors(t *testing.T) {
 		{dot, Nums(0, 1), api.ErrForm}, {dots, Nums(3), api.ErrLong}, {dots, Nums(2, 1, 1), api.ErrShort}, {dots, Nums(2, 1, 1, 1, 1), api.ErrForm},
 		{ctx, Nums(1, 1, 2, 1, 1), api.ErrShort}, {ctx, Nums(1, 1, 0), api.ErrForm}, {ctx, Nums(2, 2, 1, 1, 1, 1, 1, 1, 1), api.ErrForm},
 		{ctx, Nums(1, Last+1), api.ErrForm},
+	}
+	for _, x := range list {
+		r := &Reader{Rest: x.b}
+		if x.read(r); r.Err != x.e || len(r.Rest) != 0 {
+			t.Errorf("%v: %d, want %d", x.b, r.Err, x.e)
+		}
+	}
+}
+
+// The dots that may be, rising, each once.
+func TestRising(t *testing.T) {
+	for _, x := range [][2][]api.Dot{
+		{nil, nil}, {Never(), nil}, {Dots(1, 1), Dots(1, 1)}, {Dots(2, 1, 1, 2, 0, 1, 1, 1, 2, 1), Dots(1, 1, 1, 2, 2, 1)},
+	} {
+		if got := Rising(x[0]); !slices.Equal(got, x[1]) {
+			t.Error(got)
+		}
+	}
+}
+
+// Which events may be, written out, each fault by itself.
+func TestWordsOfEvents(t *testing.T) {
+	d := Dot(2, 5)
+	full := Gone(d, Row(1, 1, 256)...)
+	for _, e := range []api.Event{Edit(d), Gone(d), Edit(d, Dot(1, 1), Dot(2, 4), Dot(2, 6)), full, {Dot: d, Kind: 1, Cid: Huge, Field: 5, Text: Long(60)}, {Dot: d, Kind: 1, Cid: Least, Field: 1}} {
+		if !EventMayBe(e) {
+			t.Error(ToldEvent(e))
+		}
+	}
+	list := []api.Event{{}, Edit(Dot(0, 1)), Gone(Dot(1, 0)), Edit(d, d), Edit(d, Dots(1, 2, 1, 1)...), Edit(d, Dots(1, 1, 1, 1)...), Edit(d, Dot(1, 0)), Gone(d, Row(1, 1, 257)...)}
+	for _, change := range []func(e *api.Event){
+		func(e *api.Event) { e.Kind = 0 }, func(e *api.Event) { e.Kind = 2 }, func(e *api.Event) { e.Kind = 3 },
+		func(e *api.Event) { e.Cid = Most }, func(e *api.Event) { e.Cid = 1 << 48 }, func(e *api.Event) { e.Field = 0 }, func(e *api.Event) { e.Field = 6 },
+		func(e *api.Event) { e.Text = "\x1f" }, func(e *api.Event) { e.Text = "a\x7f" }, func(e *api.Event) { e.Text = Long(61) },
+	} {
+		e := Edit(d)
+		change(&e)
+		list = append(list, e)
+	}
+	for _, change := range []func(e *api.Event){func(e *api.Event) { e.Field = 1 }, func(e *api.Event) { e.Text = "a" }} {
+		e := Gone(d)
+		change(&e)
+		list = append(list, e)
+	}
+	for _, e := range list {
+		if EventMayBe(e) {
+			t.Error(ToldEvent(e))
+		}
+	}
+}
+
+// Events that are unlike are told unlike, those that are the same alike; what is written into one is not seen in the other one.
+func TestToldEvents(t *testing.T) {
+	seen := map[string]bool{}
+	all := Unlike()
+	for _, e := range all {
+		was := ToldEvent(e)
+		seen[was] = true
+		a, b := Again(e, false), Again(e, true)
+		Spoil(&a)
+		if ToldEvent(e) != was || ToldEvent(b) != was || ToldEvent(a) == was {
+			t.Error(was)
+		}
+	}
+	if len(seen) != len(all) {
+		t.Error(len(seen), len(all))
+	}
+	was := ToldEvents(all)
+	other := AgainAll(all, false)
+	SpoilAll(other)
+	if ToldEvents(all) != was || ToldEvents(AgainAll(all, true)) != was || ToldEvents(other) == was || ToldEvents(all[1:]) == was {
+		t.Error("all")
+	}
+}
+
+// Drawn events: many may be, many may not.
+func TestAnyEvent(t *testing.T) {
+	may := 0
+	for _, e := range AnyEvents(rand.New(rand.NewSource(1)), 1000) {
+		if EventMayBe(e) {
+			may++
+		}
+	}
+	if may < 100 || may > 900 {
+		t.Error(may)
+	}
+}
+
+// The bytes of events, written out, and what they are read as.
+func TestEventBytes(t *testing.T) {
+	a := api.Event{Dot: Dot(1, 1), Kind: 1, Cid: Least, Field: 4, Text: "ab"}
+	b := api.Event{Dot: Dot(1, 2), Kind: 2, Cid: Least, Kills: Dots(1, 1)}
+	want := []byte{1, 2, 1, 1, 1, 1, 1, 7, 1, 0, 0, 0, 0, 0, 1, 4, 1, 2, 'a', 'b', 0, 1, 1, 1, 2, 2, 7, 1, 0, 0, 0, 0, 0, 1, 0, 0, 1, 1, 1, 1, 1, 1}
+	got := EventsBytes([]api.Event{a, b})
+	if !bytes.Equal(got, want) || !bytes.Equal(slices.Concat(EventBytes(a), EventBytes(b)), want[2:]) {
+		t.Error(got)
+	}
+	r := &Reader{Rest: slices.Concat(got, got[2:])}
+	if l := r.Events(2); ToldEvents(l) != ToldEvents([]api.Event{a, b}) || ToldEvent(r.Event()) != ToldEvent(a) || ToldEvent(r.Event()) != ToldEvent(b) || r.Err != api.OK || len(r.Rest) != 0 {
+		t.Error(r)
+	}
+	if e := r.Event(); ToldEvent(e) != ToldEvent(api.Event{}) || r.Err != api.ErrShort || r.Byte() != 0 || r.Text(5) != "" || len(r.Events(5)) != 0 || r.Err != api.ErrShort {
+		t.Error(r)
+	}
+}
+
+// Bytes of events that are wrong, each with its error.
+func TestEventErrors(t *testing.T) {
+	one := func(r *Reader) { r.Event() }
+	two := func(r *Reader) { r.Events(2) }
+	text := func(r *Reader) { r.Text(2) }
+	a, b := EventBytes(Edit(Dot(1, 1))), EventBytes(Gone(Dot(1, 2)))
+	list := []struct {
+		read func(r *Reader)
+		b    []byte
+		e    api.Errno
+	}{
+		{text, Nums(3), api.ErrLong}, {text, []byte{1, 2, 'a'}, api.ErrShort}, {text, []byte{9}, api.ErrForm}, {func(r *Reader) { r.Text(-1) }, []byte{1, 1, 'a'}, api.ErrLong},
+		{one, a[:len(a)-1], api.ErrShort}, {one, EventBytes(Edit(Dot(0, 1))), api.ErrForm}, {one, EventBytes(Edit(Dot(1, 1), Dot(1, 1))), api.ErrForm},
+		{one, EventBytes(api.Event{Dot: Dot(1, 1), Text: Long(61)}), api.ErrLong}, {one, EventBytes(Gone(Dot(1, 1), Row(1, 2, 257)...)), api.ErrLong},
+		{two, Nums(3), api.ErrLong}, {two, slices.Concat(Nums(2), a), api.ErrShort}, {two, slices.Concat(Nums(2), b, a), api.ErrForm}, {two, slices.Concat(Nums(2), b, b), api.ErrForm},
 	}
 	for _, x := range list {
 		r := &Reader{Rest: x.b}

@@ -1,6 +1,11 @@
 package aid
 
-import "epitaph/api"
+import (
+	"slices"
+	"strings"
+
+	"epitaph/api"
+)
 
 // MayBe is told by the words of chapter 7, part by part.
 func MayBe(d api.Dot) bool {
@@ -14,6 +19,55 @@ func MayBe(d api.Dot) bool {
 // Ahead tells by the words of chapter 7 whether the first one stands ahead of the second one.
 func Ahead(a, b api.Dot) bool {
 	return a.Dev < b.Dev || a.Dev == b.Dev && a.N < b.N
+}
+
+// Rising is the dots of a list that may be, told by taking the least one beyond the one taken ahead, again and again.
+func Rising(l []api.Dot) []api.Dot {
+	list := []api.Dot{}
+	for {
+		found := false
+		var least api.Dot
+		for _, d := range l {
+			if !MayBe(d) || len(list) > 0 && !Ahead(list[len(list)-1], d) {
+				continue
+			}
+			if !found || Ahead(d, least) {
+				found, least = true, d
+			}
+		}
+		if !found {
+			return list
+		}
+		list = append(list, least)
+	}
+}
+
+// MayText is told by a list of all bytes that may stand in a value.
+func MayText(s string) bool {
+	const may = " !\"#$%&'()*+,-./0123456789:;<=>?@ABCDEFGHIJKLMNOPQRSTUVWXYZ[\\]^_`abcdefghijklmnopqrstuvwxyz{|}~"
+	for i := range len(s) {
+		if !strings.Contains(may, s[i:i+1]) {
+			return false
+		}
+	}
+	return len(s) < 61
+}
+
+// EventMayBe is told by the words of chapter 13, each dot of the Kills held against all behind it.
+func EventMayBe(e api.Event) bool {
+	may := MayBe(e.Dot) && e.Cid/(Most+1) > 0 && e.Cid%(Most+1) > 0 && len(e.Kills) < 257
+	if e.Kind == 1 {
+		may = may && e.Field > 0 && e.Field < 6 && MayText(e.Text)
+	} else {
+		may = may && e.Kind == 2 && e.Field == 0 && len(e.Text) == 0
+	}
+	for i, d := range e.Kills {
+		may = may && MayBe(d) && d != e.Dot
+		for k := i + 1; k < len(e.Kills) && may; k++ {
+			may = Ahead(d, e.Kills[k])
+		}
+	}
+	return may
 }
 
 // Has tells by the words of chapters 6 and 9, run by run, whether a context has a dot.
@@ -80,6 +134,20 @@ func DotsBytes(l []api.Dot) []byte {
 	return b
 }
 
+// EventBytes are an event's bytes, as chapter 16 tells them, but that its Kills are written as they stand.
+func EventBytes(e api.Event) []byte {
+	return slices.Concat(DotBytes(e.Dot), []byte{e.Kind}, NumBytes(e.Cid), []byte{e.Field}, NumBytes(uint64(len(e.Text))), []byte(e.Text), DotsBytes(e.Kills))
+}
+
+// EventsBytes are how many events there are, and these as they stand.
+func EventsBytes(l []api.Event) []byte {
+	b := Nums(uint64(len(l)))
+	for _, e := range l {
+		b = append(b, EventBytes(e)...)
+	}
+	return b
+}
+
 // CtxBytes are how many parts there are, and these as they stand, of each how many runs, and these.
 func CtxBytes(c api.Ctx) []byte {
 	b := Nums(uint64(len(c)))
@@ -92,7 +160,7 @@ func CtxBytes(c api.Ctx) []byte {
 	return b
 }
 
-// Reader reads as the words of chapters 3, 4 and 15 tell it, number by number, and keeps the first error.
+// Reader reads as the words of chapters 3, 4, 15 and 16 tell it, number by number, and keeps the first error.
 type Reader struct {
 	Rest []byte
 	Err  api.Errno
@@ -132,6 +200,40 @@ func (r *Reader) Num() uint64 {
 	return v
 }
 
+// Byte reads a byte.
+func (r *Reader) Byte() byte {
+	if len(r.Rest) == 0 {
+		r.Fail(api.ErrShort)
+		return 0
+	}
+	c := r.Rest[0]
+	r.Rest = r.Rest[1:]
+	return c
+}
+
+// count reads how many there are, which are too many above most; below 0 it counts as 0.
+func (r *Reader) count(most int) uint64 {
+	n := r.Num()
+	if r.Err == api.OK && (most <= 0 && n > 0 || most > 0 && n > uint64(most)) {
+		r.Fail(api.ErrLong)
+	}
+	return n
+}
+
+// Text reads how many bytes a text has, which is refused if it is above most, and these.
+func (r *Reader) Text(most int) string {
+	n := r.count(most)
+	if r.Err == api.OK && n > uint64(len(r.Rest)) {
+		r.Fail(api.ErrShort)
+	}
+	if r.Err != api.OK {
+		return ""
+	}
+	s := string(r.Rest[:n])
+	r.Rest = r.Rest[n:]
+	return s
+}
+
 // Dev reads a device, which is refused as it comes.
 func (r *Reader) Dev() uint16 {
 	v := r.Num()
@@ -157,10 +259,7 @@ func (r *Reader) Dot() api.Dot {
 
 // Dots reads dots that rise, which is asked as it goes.
 func (r *Reader) Dots(most int) []api.Dot {
-	n := r.Num()
-	if r.Err == api.OK && (most <= 0 && n > 0 || most > 0 && n > uint64(most)) {
-		r.Fail(api.ErrLong)
-	}
+	n := r.count(most)
 	var list []api.Dot
 	for i := uint64(0); r.Err == api.OK && i < n; i++ {
 		d := r.Dot()
@@ -196,4 +295,38 @@ func (r *Reader) Ctx() api.Ctx {
 		return nil
 	}
 	return c
+}
+
+// Event reads an event, of which is asked at the end whether it may be.
+func (r *Reader) Event() api.Event {
+	e := api.Event{Dot: r.Dot()}
+	e.Kind = r.Byte()
+	e.Cid = r.Num()
+	e.Field = r.Byte()
+	e.Text = r.Text(60)
+	e.Kills = r.Dots(256)
+	if r.Err == api.OK && !EventMayBe(e) {
+		r.Fail(api.ErrForm)
+	}
+	if r.Err != api.OK {
+		return api.Event{}
+	}
+	return e
+}
+
+// Events reads events, and asks of each, as it goes, whether its dot stands behind the one ahead of it.
+func (r *Reader) Events(most int) []api.Event {
+	n := r.count(most)
+	var list []api.Event
+	for i := uint64(0); r.Err == api.OK && i < n; i++ {
+		e := r.Event()
+		if r.Err == api.OK && i > 0 && !Ahead(list[i-1].Dot, e.Dot) {
+			r.Fail(api.ErrForm)
+		}
+		list = append(list, e)
+	}
+	if r.Err != api.OK {
+		return nil
+	}
+	return list
 }

@@ -9,6 +9,7 @@ import (
 	"strings"
 	"testing"
 
+	"epitaph/aid"
 	"epitaph/api"
 )
 
@@ -30,21 +31,10 @@ func with(lines ...api.Line) api.Card {
 // long is a text of some bytes.
 func long(n int) string { return strings.Repeat("k", n) }
 
-// mayText is told by a list of all bytes that may stand in a value.
-func mayText(s string) bool {
-	const may = " !\"#$%&'()*+,-./0123456789:;<=>?@ABCDEFGHIJKLMNOPQRSTUVWXYZ[\\]^_`abcdefghijklmnopqrstuvwxyz{|}~"
-	for i := range len(s) {
-		if !strings.Contains(may, s[i:i+1]) {
-			return false
-		}
-	}
-	return len(s) < 61
-}
-
 // mayMore holds each text against all behind it, and against the line's own.
 func mayMore(l api.Line) bool {
 	for i, s := range l.More {
-		if s == l.Text || !mayText(s) {
+		if s == l.Text || !aid.MayText(s) {
 			return false
 		}
 		for _, behind := range l.More[i+1:] {
@@ -61,7 +51,7 @@ func mayBe(c api.Card) bool {
 	dev, n := c.Cid/(most+1), c.Cid%(most+1)
 	may := dev > 0 && n > 0 && len(c.Lines) > 0
 	for i, l := range c.Lines {
-		may = may && l.Field > 0 && l.Field < 6 && mayText(l.Text) && mayMore(l)
+		may = may && l.Field > 0 && l.Field < 6 && aid.MayText(l.Text) && mayMore(l)
 		for _, behind := range c.Lines[i+1:] {
 			may = may && l.Field < behind.Field
 		}
@@ -280,7 +270,7 @@ func TestGoodTexts(t *testing.T) {
 		texts = append(texts, long(n), strings.Repeat(" ", n), strings.Repeat("~", n), strings.Repeat("é", n/2))
 	}
 	for _, s := range texts {
-		may := mayText(s)
+		may := aid.MayText(s)
 		wantGood(t, with(of(1, s)), may)
 		for at := range 4 {
 			// What stands round the text keeps it from being like another one, or out of its order.
@@ -294,7 +284,7 @@ func TestGoodTexts(t *testing.T) {
 			wantGood(t, c, may && s != "")
 			if s != "" {
 				l.More = []string{s, s + "~"}
-				wantGood(t, c, mayText(s+"~"))
+				wantGood(t, c, aid.MayText(s+"~"))
 			}
 		}
 	}

@@ -10,6 +10,7 @@ import (
 
 	"epitaph/aid"
 	"epitaph/api"
+	"epitaph/coded"
 	"epitaph/pack"
 )
 
@@ -25,8 +26,10 @@ var (
 	of, dots, row, partOf      = aid.Dot, aid.Dots, aid.Runs, aid.Part
 	copied, alike, ordered     = aid.Copied, aid.Alike, aid.InOrder
 	mayBe, never, before, told = aid.MayBe, aid.Never, aid.Ahead, aid.Told
+	rising                     = aid.Rising
 	nums, dotBytes             = aid.Nums, aid.DotBytes
 	listBytes, ctxBytes        = aid.DotsBytes, aid.CtxBytes
+	written                    = coded.Written
 )
 
 // sameDot holds Dot against the chapter's words on these bytes.
@@ -102,13 +105,6 @@ func edges() []api.Dot {
 		}
 	}
 	return list
-}
-
-// written is what a writer has behind a call.
-func written(put func(w *pack.Writer)) []byte {
-	var w pack.Writer
-	put(&w)
-	return w.Bytes()
 }
 
 // P15.1: Dev and N, each as a number, of dots that may be and of those that may not, behind nothing and behind something.
@@ -268,27 +264,6 @@ func TestPutDotsOfAllShortLists(t *testing.T) {
 			t.Fatalf("PutDots turned %v into %v", kept, l)
 		}
 	})
-}
-
-// rising is told by taking the least dot that may be beyond the one taken ahead, again and again.
-func rising(l []api.Dot) []api.Dot {
-	list := []api.Dot{}
-	for {
-		found := false
-		var least api.Dot
-		for _, d := range l {
-			if !mayBe(d) || len(list) > 0 && !before(list[len(list)-1], d) {
-				continue
-			}
-			if !found || before(d, least) {
-				found, least = true, d
-			}
-		}
-		if !found {
-			return list
-		}
-		list = append(list, least)
-	}
 }
 
 // P15.2: nothing, one dot, dots that rise, fall, come twice, and of which some or all may not be, written out.
@@ -1023,49 +998,26 @@ func TestManyParts(t *testing.T) {
 
 // P15.4: several things written one behind another are read so.
 func TestMixture(t *testing.T) {
-	rnd := rand.New(rand.NewSource(156))
-	for range 500 {
-		var w pack.Writer
-		var reads []func(r *pack.Reader) bool
-		for range rnd.Intn(12) {
-			reads = append(reads, putOne(&w, rnd))
-		}
-		r := pack.New(w.Bytes())
-		for i, read := range reads {
-			if !read(r) || r.Err() != api.OK {
-				t.Fatalf("thing %d of %v is read otherwise: %d", i, w.Bytes(), r.Err())
-			}
-		}
-		if r.End() != api.OK {
-			t.Fatalf("%v: %d", w.Bytes(), r.Err())
-		}
-	}
-}
-
-// putOne writes a thing that is drawn, and answers what tells whether it is read.
-func putOne(w *pack.Writer, rnd *rand.Rand) func(r *pack.Reader) bool {
-	good := edges()
-	switch rnd.Intn(5) {
-	case 0:
-		d := good[rnd.Intn(len(good))]
+	good, all := edges(), inOrder()
+	one := func(w *pack.Writer, g aid.Chance) func(r *pack.Reader) bool {
+		d := good[g.Intn(len(good))]
 		PutDot(w, d)
 		return func(r *pack.Reader) bool { return Dot(r) == d }
-	case 1:
-		at := rnd.Intn(len(good))
-		l := good[at : at+rnd.Intn(len(good)-at)]
+	}
+	some := func(w *pack.Writer, g aid.Chance) func(r *pack.Reader) bool {
+		at := g.Intn(len(good))
+		l := good[at : at+g.Intn(len(good)-at)]
 		PutDots(w, l)
 		return func(r *pack.Reader) bool { return slices.Equal(Dots(r, len(l)), l) }
-	case 2:
-		c := inOrder()[rnd.Intn(len(inOrder()))]
+	}
+	context := func(w *pack.Writer, g aid.Chance) func(r *pack.Reader) bool {
+		c := all[g.Intn(len(all))]
 		PutCtx(w, c)
 		return func(r *pack.Reader) bool { return alike(Ctx(r), c) }
-	case 3:
-		v := rnd.Uint64() >> rnd.Intn(64)
-		w.Num(v)
-		return func(r *pack.Reader) bool { return r.Num() == v }
 	}
-	w.Text("ab")
-	return func(r *pack.Reader) bool { return r.Text(2) == "ab" }
+	if why := coded.InTurn(rand.New(rand.NewSource(156)), 500, one, some, context); why != "" {
+		t.Error(why)
+	}
 }
 
 // P15.1 to P15.3: into a writer that is nil nothing is written; of a reader that is nil nothing is read.

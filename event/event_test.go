@@ -9,217 +9,30 @@ import (
 	"strings"
 	"testing"
 
+	"epitaph/aid"
 	"epitaph/api"
 )
 
 const (
-	most  = api.MaxCount
-	least = 1<<48 + 1
+	most  = aid.Most
+	least = aid.Least
 )
 
-// at is a dot, in short.
-func at(dev uint16, n uint64) api.Dot { return api.Dot{Dev: dev, N: n} }
-
-// edit is an edit that may be, if its dot may be and what it kills.
-func edit(d api.Dot, kills ...api.Dot) api.Event {
-	return api.Event{Dot: d, Kind: 1, Cid: least, Field: 4, Text: "Rome", Kills: kills}
-}
-
-// gone is a deletion that may be, if its dot may be and what it kills.
-func gone(d api.Dot, kills ...api.Dot) api.Event {
-	return api.Event{Dot: d, Kind: 2, Cid: least, Kills: kills}
-}
-
-// long is a text of some bytes.
-func long(n int) string { return strings.Repeat("k", n) }
-
-// row is dots of one device, one behind another.
-func row(dev uint16, from uint64, many int) []api.Dot {
-	l := make([]api.Dot, many)
-	for i := range l {
-		l[i] = at(dev, from+uint64(i))
-	}
-	return l
-}
+// What stands in the tests in short.
+var (
+	at, row, edit, gone, long  = aid.Dot, aid.Row, aid.Edit, aid.Gone, aid.Long
+	few, anyDot                = aid.Few, aid.AnyDot
+	anyEvent, anyEvents, kinds = aid.AnyEvent, aid.AnyEvents, aid.Unlike
+	mayText, mayBe             = aid.MayText, aid.EventMayBe
+	written, writtenAll        = aid.ToldEvent, aid.ToldEvents
+	again, againAll            = aid.Again, aid.AgainAll
+	spoilDots, spoil, spoilAll = aid.SpoilDots, aid.Spoil, aid.SpoilAll
+)
 
 // whole is a dot as one number in whose order the dots stand, of as many bits as it takes, also of a dot that may not be.
 func whole(d api.Dot) *big.Int {
 	n := new(big.Int).Lsh(big.NewInt(int64(d.Dev)), 64)
 	return n.Add(n, new(big.Int).SetUint64(d.N))
-}
-
-// mayDot is told by the words of chapter 7.
-func mayDot(d api.Dot) bool { return d.Dev > 0 && d.N > 0 && d.N < 1<<48 }
-
-// mayText is told by a list of all bytes that may stand in a value.
-func mayText(s string) bool {
-	const may = " !\"#$%&'()*+,-./0123456789:;<=>?@ABCDEFGHIJKLMNOPQRSTUVWXYZ[\\]^_`abcdefghijklmnopqrstuvwxyz{|}~"
-	for i := range len(s) {
-		if !strings.Contains(may, s[i:i+1]) {
-			return false
-		}
-	}
-	return len(s) < 61
-}
-
-// mayBe is told by the chapter's words, each dot of the Kills held against all behind it.
-func mayBe(e api.Event) bool {
-	may := mayDot(e.Dot) && e.Cid/(most+1) > 0 && e.Cid%(most+1) > 0 && len(e.Kills) < 257
-	if e.Kind == 1 {
-		may = may && e.Field > 0 && e.Field < 6 && mayText(e.Text)
-	} else {
-		may = may && e.Kind == 2 && e.Field == 0 && len(e.Text) == 0
-	}
-	for i, d := range e.Kills {
-		may = may && mayDot(d) && d != e.Dot
-		for k := i + 1; k < len(e.Kills) && may; k++ {
-			may = whole(d).Cmp(whole(e.Kills[k])) < 0
-		}
-	}
-	return may
-}
-
-// written is all that an event has, its text with the length ahead, so that no two unlike events are written alike.
-func written(e api.Event) string {
-	var b strings.Builder
-	num := func(n uint64) { b.WriteString(strconv.FormatUint(n, 10) + ";") }
-	num(uint64(e.Dot.Dev))
-	num(e.Dot.N)
-	num(uint64(e.Kind))
-	num(e.Cid)
-	num(uint64(e.Field))
-	num(uint64(len(e.Text)))
-	b.WriteString(e.Text)
-	num(uint64(len(e.Kills)))
-	for _, d := range e.Kills {
-		num(uint64(d.Dev))
-		num(d.N)
-	}
-	return b.String()
-}
-
-// writtenAll is all that a list of events has.
-func writtenAll(l []api.Event) string {
-	var b strings.Builder
-	b.WriteString(strconv.Itoa(len(l)) + ";")
-	for _, e := range l {
-		b.WriteString(written(e))
-	}
-	return b.String()
-}
-
-// few are dots that stand near one another, and at the ends of both parts, those that may be and those that may not.
-func few() []api.Dot {
-	return []api.Dot{
-		at(1, 1), at(1, 2), at(1, 9), at(2, 1), at(2, 2), at(3, 1), at(1, most), at(2, most), at(65535, 1), at(65535, most),
-		{}, at(0, 1), at(0, most), at(1, 0), at(65535, 0), at(1, most+1), at(2, most+1), at(65535, most+1), at(0, math.MaxUint64), at(1, math.MaxUint64), at(65535, math.MaxUint64), at(256, 1), at(257, 1<<32), at(257, 1<<32+1),
-	}
-}
-
-// anyDot is one of a few dots, the first ones more often.
-func anyDot(g *rand.Rand) api.Dot {
-	l := few()
-	return l[g.Intn(3+g.Intn(len(l)-2))]
-}
-
-// anyEvent is an event of drawn parts, all of them from a few, so that pairs are often the same, and events often may be.
-func anyEvent(g *rand.Rand) api.Event {
-	cids := []uint64{least, least, least, least + 1, 1<<49 + 1, math.MaxUint64, 0, 1, most, 1 << 48}
-	texts := []string{"", "", "a", "b", "ab", "~", " ", long(60), "\x1f", "\x7f", long(61)}
-	e := api.Event{Dot: anyDot(g), Kind: uint8(1 + g.Intn(2)), Cid: cids[g.Intn(1+g.Intn(len(cids)))]}
-	if e.Kind == 1 || g.Intn(8) == 0 {
-		e.Field = uint8(1 + g.Intn(5))
-		e.Text = texts[g.Intn(2+g.Intn(len(texts)-1))]
-	}
-	for range g.Intn(4) {
-		e.Kills = append(e.Kills, anyDot(g))
-	}
-	if g.Intn(3) > 0 {
-		slices.SortFunc(e.Kills, func(a, b api.Dot) int { return whole(a).Cmp(whole(b)) })
-		e.Kills = slices.Compact(e.Kills)
-	}
-	switch g.Intn(16) {
-	case 0:
-		e.Kind = uint8(g.Intn(4))
-	case 1:
-		e.Field = uint8(g.Intn(256))
-	}
-	return e
-}
-
-// anyEvents is a list of events of drawn parts.
-func anyEvents(g *rand.Rand, many int) []api.Event {
-	l := make([]api.Event, many)
-	for i := range l {
-		l[i] = anyEvent(g)
-	}
-	return l
-}
-
-// kinds are events that are unlike one another, those that may be and those that may not: each has its like in one thing less, or in one thing changed.
-func kinds() []api.Event {
-	d := at(2, 5)
-	list := []api.Event{
-		{}, {Dot: d}, {Kind: 1}, {Kind: 2}, {Cid: 1}, {Cid: least}, {Field: 1}, {Text: "a"}, {Text: "\x00"}, {Kills: []api.Dot{{}}}, {Kills: []api.Dot{{}, {}}}, {Kills: []api.Dot{d}},
-		edit(d), edit(at(1, 5)), edit(at(3, 5)), edit(at(258, 5)), edit(at(2, 4)), edit(at(2, 6)), edit(at(2, 5+1<<32)), edit(at(2, 5+1<<48)), edit(at(0, 5)), edit(at(2, 0)), edit(api.Dot{}), edit(at(5, 2)),
-		gone(d), gone(at(1, 5)), gone(at(2, 4)), gone(at(0, 5)), gone(at(2, 0)),
-		edit(d, at(1, 1)), edit(d, at(1, 2)), edit(d, at(2, 1)), edit(d, at(1, 1), at(1, 2)), edit(d, at(1, 2), at(1, 1)), edit(d, at(1, 1), at(2, 2)), edit(d, at(1, 1), at(1, 1)), edit(d, d), edit(d, api.Dot{}),
-		gone(d, at(1, 1)), gone(d, at(1, 2)), gone(d, at(2, 1)), gone(d, at(1, 1), at(1, 2)), gone(d, at(1, 2), at(1, 1)),
-		edit(d, row(1, 1, 256)...), edit(d, row(1, 2, 256)...), edit(d, row(1, 1, 255)...), edit(d, row(1, 2, 255)...), edit(d, row(1, 1, 257)...), edit(d, row(3, 1, 256)...),
-		gone(d, row(1, 1, 256)...), gone(d, row(1, 1, 255)...), gone(d, row(1, 1, 257)...), gone(d, row(1, 1, 600)...), gone(d, row(1, 1, 601)...),
-	}
-	for _, place := range []int{0, 1, 128, 254, 255} {
-		for _, k := range []api.Dot{at(1, 999), at(2, uint64(place)+1), {}} {
-			kills := row(1, 1, 256)
-			kills[place] = k
-			list = append(list, edit(d, kills...))
-		}
-	}
-	for _, cid := range []uint64{0, 1, most, 1 << 48, least + 1, 1<<49 + 1, 1<<63 + 1, math.MaxUint64} {
-		e, f := edit(d), gone(d)
-		e.Cid, f.Cid = cid, cid
-		list = append(list, e, f)
-	}
-	for _, kind := range []uint8{0, 2, 3, 128, 129, 255} {
-		e := edit(d, at(1, 1))
-		e.Kind = kind
-		list = append(list, e)
-	}
-	for _, f := range []uint8{0, 1, 2, 3, 5, 6, 255} {
-		e := edit(d, at(1, 1))
-		e.Field = f
-		list = append(list, e)
-	}
-	for _, s := range []string{"", "R", "Rom", "rome", "Rome ", " Rome", "Rome\x00", "Rome\x1f", "Rome\x7f", "Romé", "Robe", long(60), long(61), long(1000), long(999) + "x"} {
-		e := edit(d)
-		e.Text = s
-		list = append(list, e)
-	}
-	return list
-}
-
-// again is the same event, built from other memory, with a nil list where there is nothing, or with an empty one.
-func again(e api.Event, empty bool) api.Event {
-	n := api.Event{Dot: e.Dot, Kind: e.Kind, Cid: e.Cid, Field: e.Field, Text: string([]byte(e.Text))}
-	if empty {
-		n.Kills = make([]api.Dot, 0, len(e.Kills)+3)
-	}
-	for _, d := range e.Kills {
-		n.Kills = append(n.Kills, d)
-	}
-	return n
-}
-
-// againAll is the same list, built from other memory.
-func againAll(l []api.Event, empty bool) []api.Event {
-	var list []api.Event
-	if empty {
-		list = make([]api.Event, 0, len(l)+2)
-	}
-	for _, e := range l {
-		list = append(list, again(e, empty))
-	}
-	return list
 }
 
 // wantGood holds Good against what was named, and against the slow telling.
@@ -857,34 +670,6 @@ func TestAllLong(t *testing.T) {
 				return l
 			})
 		}
-	}
-}
-
-// spoilDots writes into all dots of a list, and behind it, as far as it has room.
-func spoilDots(l []api.Dot) {
-	l = append(l, at(99, 99))
-	l = l[:cap(l)]
-	for i := range l {
-		l[i] = at(uint16(88+i), 88)
-	}
-}
-
-// spoil writes into all that an event has, and behind it.
-func spoil(e *api.Event) {
-	spoilDots(e.Kills)
-	e.Kills = append(e.Kills, at(77, 77))
-	e.Dot.Dev, e.Dot.N, e.Kind, e.Cid, e.Field, e.Text = e.Dot.Dev+9, e.Dot.N+9, e.Kind+9, e.Cid+9, e.Field+9, e.Text+"spoilt"
-}
-
-// spoilAll writes into all that a list of events has, and behind it.
-func spoilAll(l []api.Event) {
-	for i := range l {
-		spoil(&l[i])
-	}
-	l = append(l, edit(at(66, 66)))
-	l = l[:cap(l)]
-	for i := range l {
-		l[i] = gone(at(55, 55), at(44, 44))
 	}
 }
 
