@@ -83,3 +83,18 @@ func Lists[T any](things []T, upto int, do func(l []T)) {
 	}
 	from(nil)
 }
+
+// Orders are a list's things in each order.
+func Orders[T any](l []T) [][]T {
+	if len(l) < 2 {
+		return [][]T{slices.Clone(l)}
+	}
+	var all [][]T
+	for i, x := range l {
+		others := append(slices.Clone(l[:i]), l[i+1:]...)
+		for _, rest := range Orders(others) {
+			all = append(all, append([]T{x}, rest...))
+		}
+	}
+	return all
+}

@@ -65,6 +65,126 @@ func TestLists(t *testing.T) {
 	}
 }
 
+// All orders are told, each once, of things that are all unlike, and none shares its room with another one.
+func TestOrders(t *testing.T) {
+	in := []byte("abc")
+	all := Orders(in)
+	var told []string
+	for _, l := range all {
+		told = append(told, string(l))
+		clear(l)
+	}
+	if want := []string{"abc", "acb", "bac", "bca", "cab", "cba"}; !slices.Equal(told, want) || string(in) != "abc" {
+		t.Error(told, in)
+	}
+	if none, one := Orders([]byte{}), Orders([]byte{7}); len(none) != 1 || len(none[0]) != 0 || len(one) != 1 || !slices.Equal(one[0], []byte{7}) {
+		t.Error(none, one)
+	}
+}
+
+// What is spoilt is spoilt itself, not a copy of it, with room behind it and without.
+func TestSpoil(t *testing.T) {
+	for room := range 3 {
+		dots := append(make([]api.Dot, 0, 2+room), Dots(1, 1, 1, 2)...)
+		kills := append(make([]api.Dot, 0, 2+room), Dots(1, 1, 1, 2)...)
+		list := append(make([]api.Event, 0, 1+room), Edit(Dot(2, 2), kills...))
+		parts := append(make(api.Ctx, 0, 1+room), api.Part{Dev: 1, Runs: append(make([]api.Run, 0, 1+room), Runs(1, 2)...)})
+		runs := parts[0].Runs
+		SpoilDots(dots)
+		SpoilAll(list)
+		SpoilCtx(parts)
+		for _, l := range [][]api.Dot{dots, kills} {
+			for i, d := range l[:cap(l)] {
+				if d == Dot(1, 1) || d == Dot(1, 2) || d == (api.Dot{}) {
+					t.Error(room, i, l)
+				}
+			}
+		}
+		if e := list[:cap(list)][room]; e.Dot == Dot(2, 2) || e.Kind == 0 {
+			t.Error(room, e)
+		}
+		if p := parts[:cap(parts)][room]; p.Dev < 2 || runs[:cap(runs)][room].Lo < 2 {
+			t.Error(room, p, runs)
+		}
+	}
+}
+
+// Contexts in order are that, and those that are not have the same dots as the one that stands beside them; mute ones have none.
+func TestContexts(t *testing.T) {
+	for _, c := range Straight() {
+		if !InOrder(c) {
+			t.Error(c)
+		}
+	}
+	var dots []api.Dot
+	for _, dev := range []uint16{0, 1, 2, 3, 255, 256, Last} {
+		for n := range uint64(12) {
+			dots = append(dots, Dot(dev, n), Dot(dev, Most-n), Dot(dev, Most+n), Dot(dev, Huge-n))
+		}
+	}
+	for _, x := range Crooked() {
+		if InOrder(x[0]) || !InOrder(x[1]) {
+			t.Error(x)
+		}
+		for _, d := range dots {
+			if Has(x[0], d) != Has(x[1], d) || Has(Mute(), d) || Has(api.Ctx{{Dev: 1, Runs: Silent()}, {Dev: 0, Runs: Silent()}}, d) {
+				t.Error(x, Told(d))
+			}
+		}
+	}
+	if !slices.IsSorted(Devs()) || InOrder(Mute()) {
+		t.Error(Devs())
+	}
+}
+
+// A context with room has the same, and what is written into its rooms is told by the whole of it.
+func TestRoomy(t *testing.T) {
+	for _, x := range Crooked() {
+		c := Roomy(x[0])
+		was := Whole(c)
+		if !Alike(c, x[0]) || !Alike(was[:len(c)], Whole(c)[:len(c)]) || !Alike(was, Whole(c)) || cap(c) <= len(c) {
+			t.Error(x[0], c)
+		}
+		for i := range c {
+			if cap(c[i].Runs) <= len(c[i].Runs) {
+				t.Error(x[0], i)
+			}
+			_ = append(c[i].Runs, api.Run{Lo: 5, Hi: 6})
+			if Alike(was, Whole(c)) {
+				t.Error(x[0], i)
+			}
+			was = Whole(c)
+		}
+		if _ = append(c, Part(5, 6, 7)); Alike(was, Whole(c)) || !Alike(c, x[0]) {
+			t.Error(x[0])
+		}
+	}
+}
+
+// Drawn contexts and dots: some have something, some nothing, some are in order, some not.
+func TestAnyCtx(t *testing.T) {
+	g := rand.New(rand.NewSource(2))
+	ordered, had, may, all := 0, 0, 0, 0
+	for range 1000 {
+		c := AnyCtx(g, 4, 3)
+		if InOrder(c) {
+			ordered++
+		}
+		for _, d := range AnyDots(g, 6) {
+			all++
+			if MayBe(d) {
+				may++
+			}
+			if Has(c, d) {
+				had++
+			}
+		}
+	}
+	if ordered < 100 || ordered > 900 || may < all/4 || may > all*9/10 || had < 20 || had > may/2 {
+		t.Error(ordered, had, may, all)
+	}
+}
+
 // Dots that may be, and how they stand, written out.
 func TestWordsOfDots(t *testing.T) {
 	good := Dots(1, 1, 1, 2, 1, Most, 2, 1, Last, 1, Last, Most)
@@ -168,6 +288,10 @@ func TestRising(t *testing.T) {
 		if got := Rising(x[0]); !slices.Equal(got, x[1]) {
 			t.Error(got)
 		}
+	}
+	all := Dots(1, Above, 0, 1, 1, 1, 0, 0, 1, Huge, 0, 1, 0, Huge, Last, 0, 1, 1)
+	if got := Risen(all); !slices.Equal(got, Dots(0, 0, 0, 1, 0, Huge, 1, 1, 1, Above, 1, Huge, Last, 0)) || len(Risen(nil)) != 0 {
+		t.Error(got)
 	}
 }
 

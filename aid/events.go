@@ -1,7 +1,6 @@
 package aid
 
 import (
-	"slices"
 	"strconv"
 	"strings"
 
@@ -88,7 +87,6 @@ func AgainAll(l []api.Event, empty bool) []api.Event {
 
 // SpoilDots writes into all dots of a list, and behind it, as far as it has room.
 func SpoilDots(l []api.Dot) {
-	l = append(l, Dot(99, 99))
 	l = l[:cap(l)]
 	for i := range l {
 		l[i] = Dot(uint16(88+i), 88)
@@ -107,7 +105,6 @@ func SpoilAll(l []api.Event) {
 	for i := range l {
 		Spoil(&l[i])
 	}
-	l = append(l, Edit(Dot(66, 66)))
 	l = l[:cap(l)]
 	for i := range l {
 		l[i] = Gone(Dot(55, 55), Dot(44, 44))
@@ -132,20 +129,6 @@ func AnyDot(g Chance) api.Dot {
 	return l[g.Intn(3+g.Intn(len(l)-2))]
 }
 
-// sorted puts dots in order, each once, also those that may not be.
-func sorted(l []api.Dot) []api.Dot {
-	slices.SortFunc(l, func(a, b api.Dot) int {
-		switch {
-		case Ahead(a, b):
-			return -1
-		case Ahead(b, a):
-			return 1
-		}
-		return 0
-	})
-	return slices.Compact(l)
-}
-
 // AnyEvent is an event of drawn parts, all of them from a few, so that pairs are often the same, and events often may be.
 func AnyEvent(g Chance) api.Event {
 	cids := []uint64{Least, Least, Least, Least + 1, 1<<49 + 1, Huge, 0, 1, Most, 1 << 48}
@@ -159,7 +142,7 @@ func AnyEvent(g Chance) api.Event {
 		e.Kills = append(e.Kills, AnyDot(g))
 	}
 	if g.Intn(3) > 0 {
-		e.Kills = sorted(e.Kills)
+		e.Kills = Risen(e.Kills)
 	}
 	switch g.Intn(16) {
 	case 0:

@@ -21,14 +21,25 @@ func Ahead(a, b api.Dot) bool {
 	return a.Dev < b.Dev || a.Dev == b.Dev && a.N < b.N
 }
 
-// Rising is the dots of a list that may be, told by taking the least one beyond the one taken ahead, again and again.
+// Rising is the dots of a list that may be, each once, rising.
 func Rising(l []api.Dot) []api.Dot {
+	var may []api.Dot
+	for _, d := range l {
+		if MayBe(d) {
+			may = append(may, d)
+		}
+	}
+	return Risen(may)
+}
+
+// Risen is the dots of a list, also those that may not be, told by taking the least one beyond the one taken ahead, again and again.
+func Risen(l []api.Dot) []api.Dot {
 	list := []api.Dot{}
 	for {
 		found := false
 		var least api.Dot
 		for _, d := range l {
-			if !MayBe(d) || len(list) > 0 && !Ahead(list[len(list)-1], d) {
+			if len(list) > 0 && !Ahead(list[len(list)-1], d) {
 				continue
 			}
 			if !found || Ahead(d, least) {

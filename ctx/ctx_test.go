@@ -22,43 +22,12 @@ var (
 	of, dots, row, part = aid.Dot, aid.Dots, aid.Runs, aid.Part
 	copied, alike       = aid.Copied, aid.Alike
 	mayBe, never, told  = aid.MayBe, aid.Never, aid.Has
+	devs, silent, mute  = aid.Devs, aid.Silent, aid.Mute
+	anyDots, anyCtx     = aid.AnyDots, aid.AnyCtx
+	spoilRuns, spoilCtx = aid.SpoilRuns, aid.SpoilCtx
+	spoilDots           = aid.SpoilDots
+	roomy, whole        = aid.Roomy, aid.Whole
 )
-
-// orders are a list's things in each order.
-func orders[T any](l []T) [][]T {
-	if len(l) < 2 {
-		return [][]T{slices.Clone(l)}
-	}
-	var all [][]T
-	for i, x := range l {
-		others := append(slices.Clone(l[:i]), l[i+1:]...)
-		for _, rest := range orders(others) {
-			all = append(all, append([]T{x}, rest...))
-		}
-	}
-	return all
-}
-
-// devs are all devices that the tests speak of, rising.
-func devs() []uint16 {
-	return []uint16{0, 1, 2, 3, 255, 256, 32767, 32768, 65534, 65535}
-}
-
-// silent are runs that tell nothing, each for one cause or for more than one.
-func silent() []api.Run {
-	return row(0, 0, 0, 5, 0, most, 0, above, 0, huge, 5, 4, 5, 0, 2, 1, most, 1, most, most-1, above, most,
-		1, above, 1, huge, 5, above, most, above, most, huge, above, above, above, huge, huge, huge, huge, above, huge, 1)
-}
-
-// mute are parts that have no dot.
-func mute() api.Ctx {
-	list := api.Ctx{{}, {Dev: 1}, {Dev: last}, part(2), part(0, 1, 1), part(0, 1, most), part(0, 3, 4, 1, 2),
-		{Dev: 2, Runs: silent()}, {Dev: 0, Runs: silent()}}
-	for _, r := range silent() {
-		list = append(list, part(1, r.Lo, r.Hi), part(last, r.Lo, r.Hi))
-	}
-	return list
-}
 
 // marks are the numbers, rising, at which what contexts have may begin or end, and one beyond all.
 func marks(all ...api.Ctx) []uint64 {
@@ -333,7 +302,7 @@ func known() [][2]api.Ctx {
 func ordersOfRuns(c api.Ctx) []api.Ctx {
 	var all []api.Ctx
 	for i := range c {
-		for _, l := range orders(c[i].Runs) {
+		for _, l := range aid.Orders(c[i].Runs) {
 			other := copied(c)
 			other[i].Runs = l
 			all = append(all, other)
@@ -347,7 +316,7 @@ func TestKnown(t *testing.T) {
 	for _, k := range known() {
 		wantOne(t, k[0], k[1])
 		wantOne(t, k[1], k[1])
-		for _, c := range orders(k[0]) {
+		for _, c := range aid.Orders(k[0]) {
 			wantOne(t, c, k[1])
 		}
 		for _, c := range ordersOfRuns(k[0]) {
@@ -469,7 +438,7 @@ func TestOfKnown(t *testing.T) {
 		{dots(2, 1, 1, 2, last, 3, 2, 2), api.Ctx{part(1, 2, 2), part(2, 1, 2), part(last, 3, 3)}},
 		{dots(256, 1, 255, 1, 1, 1), api.Ctx{part(1, 1, 1), part(255, 1, 1), part(256, 1, 1)}},
 	} {
-		for _, l := range orders(k.l) {
+		for _, l := range aid.Orders(k.l) {
 			kept := slices.Clone(l)
 			wantCtx(t, "Of", Of(l...), k.want, l)
 			wantCtx(t, "Add", Add(nil, l...), k.want, l)
@@ -508,20 +477,10 @@ func TestAddKnown(t *testing.T) {
 		{api.Ctx{part(0, 4, 4), part(1, 1, above)}, dots(1, 4), api.Ctx{part(1, 4, 4)}},
 		{api.Ctx{part(0, 4, 4)}, dots(0, 4, 0, 5), nil},
 	} {
-		for _, l := range orders(k.l) {
+		for _, l := range aid.Orders(k.l) {
 			wantCtx(t, "Add", Add(k.c, l...), k.want, k.c, l)
 		}
 	}
-}
-
-// anyDots are up to some dots, round the edges, some of which may not be.
-func anyDots(g *rand.Rand, upto int) []api.Dot {
-	var list []api.Dot
-	for range g.Intn(upto + 1) {
-		n := []uint64{uint64(g.Intn(9)), most + 2 - uint64(g.Intn(6)), huge - uint64(g.Intn(2)), g.Uint64() >> g.Intn(64)}[g.Intn(4)]
-		list = append(list, of(devs()[g.Intn(len(devs()))], n))
-	}
-	return list
 }
 
 // each is a context of which each dot is a part of its own.
@@ -627,8 +586,8 @@ func TestPairsKnown(t *testing.T) {
 			api.Ctx{part(2, 1, 1)}, api.Ctx{part(1, 1, most)}},
 		{api.Ctx{part(0, 1, 9), part(3, 1, 1)}, api.Ctx{part(0, 1, 9), part(3, 2, 2)}, api.Ctx{part(3, 1, 2)}, nil, api.Ctx{part(3, 1, 1)}, api.Ctx{part(3, 2, 2)}},
 	} {
-		for _, a := range orders(k.a) {
-			for _, b := range orders(k.b) {
+		for _, a := range aid.Orders(k.a) {
+			for _, b := range aid.Orders(k.b) {
 				wantPair(t, a, b, k.join, k.meet, k.minus, k.back)
 				wantPair(t, b, a, k.join, k.meet, k.back, k.minus)
 			}
@@ -700,27 +659,6 @@ func TestPairsOfRuns(t *testing.T) {
 			}
 		}
 	}
-}
-
-// anyCtx is up to some parts of up to some runs, of any kind.
-func anyCtx(g *rand.Rand, parts, upto int) api.Ctx {
-	nums := []uint64{0, 1, 2, 3, 4, 5, 6, 7, 8, 9, most - 4, most - 3, most - 2, most - 1, most, above, huge}
-	var c api.Ctx
-	for range g.Intn(parts + 1) {
-		p := api.Part{Dev: devs()[g.Intn(5)]}
-		if g.Intn(4) == 0 {
-			p.Dev = devs()[g.Intn(len(devs()))]
-		}
-		for range g.Intn(upto + 1) {
-			lo, hi := g.Intn(len(nums)), g.Intn(len(nums))
-			if g.Intn(4) > 0 {
-				hi = min(lo+g.Intn(4), len(nums)-1)
-			}
-			p.Runs = append(p.Runs, api.Run{Lo: nums[lo], Hi: nums[hi]})
-		}
-		c = append(c, p)
-	}
-	return c
 }
 
 // P9.1 to P9.3: contexts of many parts with many runs, in any order.
@@ -880,7 +818,7 @@ func TestPlainKnown(t *testing.T) {
 		{dots(2, 4, 2, above, 0, 5, 2, 0), api.Ctx{part(2, 1, 4)}},
 		{dots(last, 2, 256, 1, 255, 7, 1, 1), api.Ctx{part(1, 1, 1), part(255, 1, 7), part(256, 1, 1), part(last, 1, 2)}},
 	} {
-		for _, v := range orders(k.v) {
+		for _, v := range aid.Orders(k.v) {
 			wantCtx(t, "Plain", Plain(v), k.want, v)
 		}
 	}
@@ -939,7 +877,7 @@ func TestEachOrder(t *testing.T) {
 		{dots(1, most, 1, most-1, 1, above, 0, 1, 1, 0, 2, 3), api.Ctx{part(1, most-1, most), part(2, 3, 3)}},
 		{dots(3, 1, 3, 1, 3, 2, 3, 2, 2, 1, 3, 3), api.Ctx{part(2, 1, 1), part(3, 1, 3)}},
 	} {
-		for _, l := range orders(k.l) {
+		for _, l := range aid.Orders(k.l) {
 			var one, lot, joined api.Ctx
 			for i, d := range l {
 				one = Add(one, d)
@@ -991,41 +929,6 @@ func TestAgain(t *testing.T) {
 	}
 }
 
-// scrawl writes into all of a list of runs, the room behind it, too.
-func scrawl(l []api.Run) {
-	l = l[:cap(l)]
-	for i := range l {
-		l[i] = api.Run{Lo: 77, Hi: 78}
-	}
-}
-
-// scrawlAll writes into all of a context, its runs, and the rooms behind them.
-func scrawlAll(c api.Ctx) {
-	c = c[:cap(c)]
-	for i := range c {
-		scrawl(c[i].Runs)
-		c[i] = part(77, 78, 79)
-	}
-}
-
-// roomy is a copy of a context, with room behind its parts and behind each part's runs.
-func roomy(c api.Ctx) api.Ctx {
-	other := append(copied(c), mute()...)
-	for i := range c {
-		other[i].Runs = append(other[i].Runs, silent()...)[:len(other[i].Runs)]
-	}
-	return other[:len(c)]
-}
-
-// whole is a copy of a context, of what stands in the rooms behind it, too.
-func whole(c api.Ctx) api.Ctx {
-	other := slices.Clone(c[:cap(c)])
-	for i, p := range other {
-		other[i].Runs = slices.Clone(p.Runs[:cap(p.Runs)])
-	}
-	return other
-}
-
 // wantOwn holds that a call's answer shares nothing with its two contexts, nor with another answer, and leaves the rooms behind them.
 func wantOwn(t *testing.T, what string, call func(a, b api.Ctx) api.Ctx, a, b api.Ctx) {
 	t.Helper()
@@ -1033,19 +936,19 @@ func wantOwn(t *testing.T, what string, call func(a, b api.Ctx) api.Ctx, a, b ap
 	keptX, keptY := whole(x), whole(y)
 	first, second := call(x, y), call(x, y)
 	want := copied(second)
-	scrawlAll(first)
+	spoilCtx(first)
 	wantKept(t, whole(x), keptX)
 	wantKept(t, whole(y), keptY)
 	wantCtx(t, what+", where another answer was written into,", second, want, a, b)
 	wantCtx(t, what+", behind an answer that was written into,", call(x, y), want, a, b)
-	scrawlAll(x)
-	scrawlAll(y)
+	spoilCtx(x)
+	spoilCtx(y)
 	wantCtx(t, what+", where what went in was written into,", second, want, a, b)
 	for i := range second {
 		if !alike(second[i:], want[i:]) {
 			t.Errorf("%s of %v and %v: what is written into one part turned another one", what, a, b)
 		}
-		scrawl(second[i].Runs)
+		spoilRuns(second[i].Runs)
 	}
 }
 
@@ -1082,14 +985,14 @@ func TestSharesLists(t *testing.T) {
 			x := roomy(a)
 			first, second := Runs(x, dev), Runs(x, dev)
 			want := slices.Clone(second)
-			scrawl(first)
+			spoilRuns(first)
 			wantRuns(t, "Runs, behind an answer that was written into,", Runs(x, dev), want, a, dev)
-			scrawlAll(x)
+			spoilCtx(x)
 			wantRuns(t, "Runs, where what went in was written into,", second, want, a, dev)
 		}
 		base := Base(a)
 		want := slices.Clone(base)
-		scrawlDots(base)
+		spoilDots(base)
 		wantVec(t, "Base, behind an answer that was written into,", Base(a), want, a)
 	}
 	for _, call := range []func(l []api.Dot) api.Ctx{
@@ -1104,18 +1007,10 @@ func TestSharesLists(t *testing.T) {
 		if !slices.Equal(l, room) {
 			t.Fatalf("%v was changed into %v", room, l)
 		}
-		scrawlDots(l)
+		spoilDots(l)
 		wantCtx(t, "what dots make", c, want, room)
-		scrawlAll(c)
+		spoilCtx(c)
 		wantCtx(t, "what dots make", call(room[:3]), want, room)
-	}
-}
-
-// scrawlDots writes into all of a list of dots, the room behind it, too.
-func scrawlDots(l []api.Dot) {
-	l = l[:cap(l)]
-	for i := range l {
-		l[i] = of(77, 78)
 	}
 }
 
@@ -1127,7 +1022,7 @@ func TestOneContextTwice(t *testing.T) {
 		from, to := g.Intn(len(c)+1), g.Intn(len(c)+1)
 		wantTwo(t, c, c)
 		wantTwo(t, c[from:], c[:to])
-		scrawlAll(Join(c[from:], c[:to]))
+		spoilCtx(Join(c[from:], c[:to]))
 		wantTwo(t, c[:to], c)
 	}
 	l := row(5, 7, 1, 2, 3, 3, 9, 9)

@@ -27,6 +27,8 @@ var (
 	copied, alike, ordered     = aid.Copied, aid.Alike, aid.InOrder
 	mayBe, never, before, told = aid.MayBe, aid.Never, aid.Ahead, aid.Told
 	rising                     = aid.Rising
+	inOrder, notInOrder        = aid.Straight, aid.Crooked
+	spoilCtx                   = aid.SpoilCtx
 	nums, dotBytes             = aid.Nums, aid.DotBytes
 	listBytes, ctxBytes        = aid.DotsBytes, aid.CtxBytes
 	written                    = coded.Written
@@ -504,60 +506,6 @@ func TestExample(t *testing.T) {
 	}
 	if !bytes.Equal(b, nums(1, 1, 1, 1, 2)) {
 		t.Error("the numbers of the example")
-	}
-}
-
-// inOrder are contexts in order, of all kinds of sizes.
-func inOrder() []api.Ctx {
-	return []api.Ctx{
-		nil,
-		{},
-		{partOf(1, 1, 1)},
-		{partOf(1, 1, 2)},
-		{partOf(1, 1, most)},
-		{partOf(1, most, most)},
-		{partOf(last, 1, 1)},
-		{partOf(last, most, most)},
-		{partOf(1, 1, 1, 3, 3)},
-		{partOf(1, 1, 5, 7, 9, 11, most)},
-		{partOf(1, 2, 2, most-1, most)},
-		{partOf(1, 1, 2, 4, 4), partOf(2, 2, 2)},
-		{partOf(1, 255, 256), partOf(255, 1, 255, 257, 65536), partOf(256, 1, 1), partOf(last-1, 2, 3), partOf(last, 1, most)},
-	}
-}
-
-// notInOrder are contexts that are not in order, each with the one that has the same dots.
-func notInOrder() [][2]api.Ctx {
-	return [][2]api.Ctx{
-		{{{Dev: 1}}, {}},
-		{{partOf(0, 1, 1)}, {}},
-		{{partOf(1, 0, 0)}, {}},
-		{{partOf(1, 0, 5)}, {}},
-		{{partOf(1, 2, 1)}, {}},
-		{{partOf(1, 1, above)}, {}},
-		{{partOf(1, above, above)}, {}},
-		{{partOf(1, huge, huge)}, {}},
-		{{partOf(0, 1, 1), partOf(1, 1, 1)}, {partOf(1, 1, 1)}},
-		{{partOf(1, 1, 1), {Dev: 2}}, {partOf(1, 1, 1)}},
-		{{partOf(1, 1, 1), partOf(2, 3, 2)}, {partOf(1, 1, 1)}},
-		{{{Dev: 1}, partOf(2, 1, 1)}, {partOf(2, 1, 1)}},
-		{{partOf(2, 1, 1), partOf(1, 1, 1)}, {partOf(1, 1, 1), partOf(2, 1, 1)}},
-		{{partOf(256, 1, 1), partOf(255, 1, 1)}, {partOf(255, 1, 1), partOf(256, 1, 1)}},
-		{{partOf(1, 1, 1), partOf(1, 1, 1)}, {partOf(1, 1, 1)}},
-		{{partOf(1, 1, 1), partOf(1, 2, 2)}, {partOf(1, 1, 2)}},
-		{{partOf(1, 1, 1), partOf(1, 3, 3)}, {partOf(1, 1, 1, 3, 3)}},
-		{{partOf(1, 1, 1), partOf(2, 1, 1), partOf(1, 2, 2)}, {partOf(1, 1, 2), partOf(2, 1, 1)}},
-		{{partOf(3, 1, 1), partOf(1, 1, 1), partOf(2, 1, 1)}, {partOf(1, 1, 1), partOf(2, 1, 1), partOf(3, 1, 1)}},
-		{{partOf(1, 3, 3, 1, 1)}, {partOf(1, 1, 1, 3, 3)}},
-		{{partOf(1, 1, 1, 2, 2)}, {partOf(1, 1, 2)}},
-		{{partOf(1, 1, 2, 3, 4)}, {partOf(1, 1, 4)}},
-		{{partOf(1, 1, 5, 3, 9)}, {partOf(1, 1, 9)}},
-		{{partOf(1, 1, 9, 3, 5)}, {partOf(1, 1, 9)}},
-		{{partOf(1, 1, 1, 1, 1)}, {partOf(1, 1, 1)}},
-		{{partOf(1, 1, 1, 5, 4, 3, 3)}, {partOf(1, 1, 1, 3, 3)}},
-		{{partOf(1, 1, 1, 3, above)}, {partOf(1, 1, 1)}},
-		{{partOf(1, 1, most-1, most, most)}, {partOf(1, 1, most)}},
-		{{partOf(1, 0, 0, 1, 1)}, {partOf(1, 1, 1)}},
 	}
 }
 
@@ -1120,18 +1068,6 @@ func TestSharesNothing(t *testing.T) {
 	clear(out)
 	if !alike(c, five) || !bytes.Equal(Encode(c), kept) {
 		t.Errorf("what Encode answered is seen in %v", c)
-	}
-}
-
-// spoilCtx writes into all of a context, and into the room behind each list.
-func spoilCtx(c api.Ctx) {
-	for _, p := range c[:cap(c)] {
-		for i := range p.Runs[:cap(p.Runs)] {
-			p.Runs[:cap(p.Runs)][i] = api.Run{Lo: 77, Hi: 78}
-		}
-	}
-	for i := range c[:cap(c)] {
-		c[:cap(c)][i] = partOf(99, 1, 1)
 	}
 }
 

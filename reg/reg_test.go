@@ -9,6 +9,7 @@ import (
 	"strings"
 	"testing"
 
+	"epitaph/aid"
 	"epitaph/api"
 )
 
@@ -173,22 +174,6 @@ func wantSlow(t *testing.T, f uint8, l []api.Value) {
 		t.Fatalf("slowLine(%d, %.300s) is of the field %d", f, told(l...), line.Field)
 	}
 	want(t, l, slowWinner(l), slowTexts(l), line)
-}
-
-// orders goes over all orders in which values may stand.
-func orders(l []api.Value, each func([]api.Value)) {
-	var turn func(done int)
-	turn = func(done int) {
-		if done == len(l) {
-			each(slices.Clone(l))
-		}
-		for i := done; i < len(l); i++ {
-			l[done], l[i] = l[i], l[done]
-			turn(done + 1)
-			l[done], l[i] = l[i], l[done]
-		}
-	}
-	turn(0)
 }
 
 // long is a text of some bytes.
@@ -683,11 +668,11 @@ func TestOrderKnown(t *testing.T) {
 		{[]api.Value{of(0, 1, "a"), of(1, 0, "b"), {}, of(0, most+1, "c"), of(1, most, "d")}, api.Line{Field: 4, Text: "c", More: []string{"", "a", "b", "d"}}},
 		{[]api.Value{of(5, 5, "e"), of(4, 5, "d"), of(3, 5, "c"), of(2, 5, "b"), of(1, 5, "a"), of(1, 6, "c")}, api.Line{Field: 5, Text: "c", More: []string{"a", "b", "d", "e"}}},
 	} {
-		orders(c.l, func(l []api.Value) {
+		for _, l := range aid.Orders(c.l) {
 			if got := Show(c.line.Field, l); !sameLine(got, c.line) {
 				t.Fatalf("Show(%d, %s) = %q, want %q", c.line.Field, told(l...), got, c.line)
 			}
-		})
+		}
 	}
 }
 
@@ -704,14 +689,14 @@ func TestOrderAny(t *testing.T) {
 		f := uint8(g.Intn(256))
 		line, texts := Show(f, l), Texts(l)
 		v, ok := Winner(l)
-		orders(l, func(m []api.Value) {
+		for _, m := range aid.Orders(l) {
 			if got := Show(f, m); !sameLine(got, line) {
 				t.Fatalf("Show(%d, %s) = %q, of another order it is %q", f, told(m...), got, line)
 			}
 			if got, is := Winner(m); got != v || is != ok || !slices.Equal(Texts(m), texts) {
 				t.Fatalf("Winner(%s) = %s, %v, or the texts, are not those of another order, %s, %v", told(m...), told(got), is, told(v), ok)
 			}
-		})
+		}
 	}
 }
 

@@ -29,21 +29,6 @@ func row(parts ...uint64) api.Vec {
 	return v
 }
 
-// orders are a vector's dots in each order.
-func orders(v api.Vec) []api.Vec {
-	if len(v) < 2 {
-		return []api.Vec{slices.Clone(v)}
-	}
-	var all []api.Vec
-	for i, d := range v {
-		others := append(slices.Clone(v[:i]), v[i+1:]...)
-		for _, rest := range orders(others) {
-			all = append(all, append(api.Vec{d}, rest...))
-		}
-	}
-	return all
-}
-
 // devs are all devices that the tests speak of, rising.
 func devs() []uint16 {
 	return []uint16{0, 1, 2, 3, 4, 5, 7, 9, 255, 256, 32767, 32768, 65534, 65535}
@@ -245,7 +230,7 @@ func known() [][2]api.Vec {
 func TestKnown(t *testing.T) {
 	for _, c := range known() {
 		wantOne(t, c[0], c[1])
-		for _, v := range orders(c[0]) {
+		for _, v := range aid.Orders(c[0]) {
 			wantOne(t, v, c[1])
 		}
 	}
@@ -408,7 +393,7 @@ func TestPutKnown(t *testing.T) {
 
 // P8.1: dots put one by one, in each order, come to the vector that tells of them all.
 func TestPutEach(t *testing.T) {
-	for _, l := range orders(row(2, 4, 1, 3, 2, 1, last, 2, 0, 7, 2, above)) {
+	for _, l := range aid.Orders(row(2, 4, 1, 3, 2, 1, last, 2, 0, 7, 2, above)) {
 		var v api.Vec
 		for i, d := range l {
 			v = Put(v, d)
@@ -447,8 +432,8 @@ func TestPairsKnown(t *testing.T) {
 		{row(1, 3, 2, above), row(1, 2, 2, most), row(1, 3, 2, most), row(1, 2), 2, 2, most, 1},
 		{row(1, most, 2, most), row(1, 1, 2, 1), row(1, most, 2, most), row(1, 1, 2, 1), 1, -1, 0, 2 * (most - 1)},
 	} {
-		for _, a := range orders(c.a) {
-			for _, b := range orders(c.b) {
+		for _, a := range aid.Orders(c.a) {
+			for _, b := range aid.Orders(c.b) {
 				wantVec(t, "Join", Join(a, b), c.join, a, b)
 				wantVec(t, "Join", Join(b, a), c.join, b, a)
 				wantVec(t, "Meet", Meet(a, b), c.meet, a, b)
