@@ -226,6 +226,43 @@ func TestWordsOfContexts(t *testing.T) {
 	}
 }
 
+// Contexts with the same dots, whatever order they stand in, and those that are unlike in one dot.
+func TestSameDots(t *testing.T) {
+	for _, x := range Crooked() {
+		if !SameDots(x[0], x[1]) || !SameDots(x[1], x[0]) {
+			t.Error(x)
+		}
+	}
+	for _, x := range Mute() {
+		if !SameDots(nil, api.Ctx{x}) || !SameDots(api.Ctx{x}, nil) {
+			t.Error(x)
+		}
+	}
+	all := Straight()[1:]
+	for i, a := range all {
+		for k, b := range all {
+			if SameDots(a, b) != (i == k) {
+				t.Error(a, b)
+			}
+		}
+	}
+	// A context, and the same one with one dot more, or with one dot less.
+	c := api.Ctx{Part(1, 2, 5, 8, 9), Part(3, Most-3, Most)}
+	for _, d := range Dots(1, 1, 1, 6, 1, 7, 1, 10, 2, 1, 3, 1, 3, Most-4) {
+		if other := append(Copied(c), Part(d.Dev, d.N, d.N)); SameDots(c, other) || SameDots(other, c) {
+			t.Error(Told(d))
+		}
+	}
+	for _, other := range []api.Ctx{
+		{Part(1, 3, 5, 8, 9), c[1]}, {Part(1, 2, 2, 4, 5, 8, 9), c[1]}, {Part(1, 2, 4, 8, 9), c[1]}, {Part(1, 2, 5, 9, 9), c[1]}, {Part(1, 2, 5, 8, 8), c[1]},
+		{c[0], Part(3, Most-2, Most)}, {c[0], Part(3, Most-3, Most-3, Most-1, Most)}, {c[0], Part(3, Most-3, Most-1)}, c[:1], c[1:],
+	} {
+		if SameDots(c, other) || SameDots(other, c) {
+			t.Error(other)
+		}
+	}
+}
+
 // Bytes, written out.
 func TestBytes(t *testing.T) {
 	if b := Nums(0, 1, 258, Huge); !bytes.Equal(b, []byte{0, 1, 1, 2, 1, 2, 8, 255, 255, 255, 255, 255, 255, 255, 255}) {
@@ -347,6 +384,22 @@ func TestToldEvents(t *testing.T) {
 	SpoilAll(other)
 	if ToldEvents(all) != was || ToldEvents(AgainAll(all, true)) != was || ToldEvents(other) == was || ToldEvents(all[1:]) == was {
 		t.Error("all")
+	}
+}
+
+// Events written in short, and lists of them in order, of each dot the first one.
+func TestByDots(t *testing.T) {
+	a, b, c := Wrote(Least, 3, Dot(2, 1), Dot(1, 7)), Ended(Least+1, Dot(1, 2), Dot(1, 1)), Other(1, Least, 3, Dot(2, 1))
+	if ToldEvent(a) != ToldEvent(api.Event{Dot: Dot(2, 1), Kind: 1, Cid: Least, Field: 3, Text: "x", Kills: Dots(1, 7)}) {
+		t.Error(a)
+	}
+	if ToldEvent(b) != ToldEvent(api.Event{Dot: Dot(1, 2), Kind: 2, Cid: Least + 1, Kills: Dots(1, 1)}) || !EventMayBe(a) || !EventMayBe(b) {
+		t.Error(b)
+	}
+	for _, x := range [][2][]api.Event{{nil, nil}, {{a}, {a}}, {{a, b}, {b, a}}, {{a, c, b}, {b, a}}, {{c, b, a, b}, {b, c}}} {
+		if got := ByDots(x[0]); ToldEvents(got) != ToldEvents(x[1]) {
+			t.Error(got)
+		}
 	}
 }
 

@@ -20,6 +20,21 @@ func Gone(d api.Dot, kills ...api.Dot) api.Event {
 	return api.Event{Dot: d, Kind: 2, Cid: Least, Kills: kills}
 }
 
+// Wrote is an edit of a contact's field, which may be, if all of these may be.
+func Wrote(cid uint64, f uint8, d api.Dot, kills ...api.Dot) api.Event {
+	return Other(1, cid, f, d, kills...)
+}
+
+// Ended is the deletion of a contact, which may be, if all of these may be.
+func Ended(cid uint64, d api.Dot, kills ...api.Dot) api.Event {
+	return api.Event{Dot: d, Kind: 2, Cid: cid, Kills: kills}
+}
+
+// Other is an event of some kind, of a contact and of a field.
+func Other(kind uint8, cid uint64, f uint8, d api.Dot, kills ...api.Dot) api.Event {
+	return api.Event{Dot: d, Kind: kind, Cid: cid, Field: f, Text: "x", Kills: kills}
+}
+
 // Long is a text of some bytes.
 func Long(n int) string { return strings.Repeat("k", n) }
 

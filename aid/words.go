@@ -81,6 +81,24 @@ func EventMayBe(e api.Event) bool {
 	return may
 }
 
+// ByDots is of each dot the first event in a list, from the least dot on.
+func ByDots(l []api.Event) []api.Event {
+	var names []api.Dot
+	for _, e := range l {
+		names = append(names, e.Dot)
+	}
+	var list []api.Event
+	for _, d := range Risen(names) {
+		for _, e := range l {
+			if e.Dot == d {
+				list = append(list, e)
+				break
+			}
+		}
+	}
+	return list
+}
+
 // Has tells by the words of chapters 6 and 9, run by run, whether a context has a dot.
 func Has(c api.Ctx, d api.Dot) bool {
 	for _, p := range c {
@@ -91,6 +109,20 @@ func Has(c api.Ctx, d api.Dot) bool {
 		}
 	}
 	return false
+}
+
+// SameDots tells whether two contexts have the same dots: it is enough to ask where a run of one of both begins, and behind where one ends.
+func SameDots(a, b api.Ctx) bool {
+	for _, p := range slices.Concat(a, b) {
+		for _, r := range p.Runs {
+			for _, n := range []uint64{1, r.Lo, r.Hi + 1} {
+				if d := Dot(p.Dev, n); Has(a, d) != Has(b, d) {
+					return false
+				}
+			}
+		}
+	}
+	return true
 }
 
 // InOrder is told by the words of chapters 6 and 9: parts that rise, none empty, with runs that rise and do not touch.

@@ -21,6 +21,8 @@ const (
 var (
 	at, dots, row, part  = aid.Dot, aid.Dots, aid.Row, aid.Part
 	edit, gone           = aid.Edit, aid.Gone
+	wrote, other         = aid.Wrote, aid.Other
+	inOrder              = aid.ByDots
 	told, toldAll        = aid.ToldEvent, aid.ToldEvents
 	again, againAll      = aid.Again, aid.AgainAll
 	spoil, spoilAll      = aid.Spoil, aid.SpoilAll
@@ -29,18 +31,6 @@ var (
 	risen, has, few      = aid.Risen, aid.Has, aid.Few
 	anyCtx, roomy, whole = aid.AnyCtx, aid.Roomy, aid.Whole
 )
-
-// wrote is an edit of a contact's field.
-func wrote(cid uint64, f uint8, d api.Dot, kills ...api.Dot) api.Event {
-	return api.Event{Dot: d, Kind: 1, Cid: cid, Field: f, Text: "x", Kills: kills}
-}
-
-// other is an event of some kind, of a contact and of a field.
-func other(kind uint8, cid uint64, f uint8, d api.Dot, kills ...api.Dot) api.Event {
-	e := wrote(cid, f, d, kills...)
-	e.Kind = kind
-	return e
-}
 
 // anyField stands for all fields.
 const anyField = -1

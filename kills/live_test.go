@@ -21,24 +21,6 @@ func killed(l []api.Event, d api.Dot) bool {
 	return false
 }
 
-// inOrder is of each dot the first event in the list, from the least dot on.
-func inOrder(l []api.Event) []api.Event {
-	var names []api.Dot
-	for _, e := range l {
-		names = append(names, e.Dot)
-	}
-	var list []api.Event
-	for _, d := range risen(names) {
-		for _, e := range l {
-			if e.Dot == d {
-				list = append(list, e)
-				break
-			}
-		}
-	}
-	return list
-}
-
 // living is told event by event, by the words of the chapter.
 func living(l []api.Event) []api.Event {
 	list := inOrder(l)
